@@ -161,10 +161,21 @@ func (c *town) anyCommand(next func(int) int) api.Command {
 	case 10:
 		return api.Command{Kind: api.CTrim + next(2), Topic: fmt.Sprint("t", next(3)), N: next(4)}
 	case 11:
-		return api.Command{Kind: api.CLeave, N: last}
-	default:
-		return api.Command{Kind: api.CJoin, N: last}
+		if c.allIn() {
+			return api.Command{Kind: api.CLeave, N: last}
+		}
 	}
+	return api.Command{Kind: api.CJoin, N: last}
+}
+
+// allIn tells whether each node is of the last view, in the life that it has: while one is out, another that leaves may be one too many for there to be a next view at all (P12.2).
+func (c *town) allIn() bool {
+	for n, life := range c.lives {
+		if !view.Has(c.views[len(c.views)], m(n, life)) {
+			return false
+		}
+	}
+	return true
 }
 
 // calm has the net be whole, and all be up.
@@ -319,12 +330,12 @@ func (c *town) cut(next func(int) int, rounds int) {
 	}
 }
 
-// mayWipe tells whether of each view less than half of the members would have been wiped.
-func (c *town) mayWipe(n int) bool {
+// keeps tells whether of each view less than half of the members were wiped: T3 and T5 ask for that.
+func (c *town) keeps() bool {
 	for _, v := range c.views {
 		gone := 0
 		for _, x := range v.Members {
-			if x.Life < c.lives[x.Node] || x == m(n, c.lives[n]) {
+			if x.Life < c.lives[x.Node] {
 				gone++
 			}
 		}
@@ -335,12 +346,25 @@ func (c *town) mayWipe(n int) bool {
 	return true
 }
 
+// wipeSome has a node have another life, if that keeps enough of each view.
+func (c *town) wipeSome(n int) bool {
+	c.lives[n]++
+	may := c.keeps()
+	c.lives[n]--
+	if may {
+		c.crash(n)
+		c.wipe(n)
+	}
+	return may
+}
+
 // P20.7, T1, T3, T4, T5: whatever is lost, doubled and late, and whoever begins again, what is done is one list, views are one sequence; and when the net is whole, all goes on.
 func TestAdverseClusters(t *testing.T) {
 	for nodes := 1; nodes <= api.MaxNodes; nodes++ {
 		t.Run(fmt.Sprint(nodes), func(t *testing.T) {
 			t.Parallel()
-			views, done, begun, wiped, booted := 0, 0, 0, 0, 0
+			views, done, begun, wiped, booted, lost := 0, 0, 0, 0, 0, 0
+		seeds:
 			for seed := range uint32(9) {
 				next := walk(seed*8 + uint32(nodes))
 				c := townOf(t, nodes)
@@ -349,11 +373,13 @@ func TestAdverseClusters(t *testing.T) {
 					c.cut(next, 12)
 					c.adverse(next, 50)
 					c.calm(45)
+					if !c.keeps() {
+						lost++
+						continue seeds // a view came up in which half had been wiped already
+					}
 					c.join()
 					c.settled()
-					if n := next(nodes); c.mayWipe(n) && next(2) == 0 {
-						c.crash(n)
-						c.wipe(n)
+					if n := next(nodes); next(2) == 0 && c.wipeSome(n) {
 						wiped++
 					}
 				}
@@ -362,7 +388,7 @@ func TestAdverseClusters(t *testing.T) {
 				views, done, begun, booted = views+len(c.views), done+len(c.whole), begun+c.begun, booted+c.booted
 			}
 			if done < 100 || nodes > 2 && (views < 50 || begun < 300 || wiped < 1 || booted < 40) {
-				t.Errorf("%d nodes: %d views, %d done, %d begun, %d wiped, %d booted", nodes, views, done, begun, wiped, booted)
+				t.Errorf("%d nodes: %d views, %d done, %d begun, %d wiped, %d booted, %d lost", nodes, views, done, begun, wiped, booted, lost)
 			}
 		})
 	}
